@@ -102,13 +102,9 @@ func (r *Reader) take(n int) []byte {
 
 // count reads a number of things that is at most most.
 func (r *Reader) count(most int) int {
-	n, size, e := frontCount(r.rest, most)
+	_, _, e := frontCount(r.rest, most)
 	r.Fail(e)
-	if r.err != api.OK {
-		return 0
-	}
-	r.take(size)
-	return n
+	return int(r.Var(uint64(most)))
 }
 
 // frontVar answers the Var at the front of b, and its size. It consumes nothing, since a Text whose bytes are missing must not consume its length either.

@@ -3,6 +3,7 @@ package entry
 import (
 	"dockyard/api"
 	"dockyard/codec"
+	"dockyard/targets"
 )
 
 // Command answers a command as bytes.
@@ -76,7 +77,7 @@ func putFields(w *codec.Writer, c api.Command) {
 	putLong(w, f.session, c.Session)
 	putLong(w, f.seq, c.Seq)
 	if f.graph {
-		putGraph(w, c.Graph)
+		targets.Put(w, c.Graph.Targets)
 	}
 	putLong(w, f.id, c.Id)
 	putLong(w, f.token, c.Token)
@@ -92,7 +93,7 @@ func readFields(r *codec.Reader, kind int) api.Command {
 	c.Session = readLong(r, f.session)
 	c.Seq = readLong(r, f.seq)
 	if f.graph {
-		c.Graph = readGraph(r)
+		c.Graph.Targets = targets.List(r)
 	}
 	c.Id = readLong(r, f.id)
 	c.Token = readLong(r, f.token)

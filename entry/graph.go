@@ -1,9 +1,6 @@
 package entry
 
-import (
-	"dockyard/api"
-	"dockyard/codec"
-)
+import "dockyard/api"
 
 // fits answers whether a graph is within the limits; whether it makes sense is for layer 7 to say.
 func fits(g api.Graph) bool {
@@ -28,25 +25,4 @@ func targetFits(t api.Target) bool {
 		}
 	}
 	return true
-}
-
-func putGraph(w *codec.Writer, g api.Graph) {
-	putText := func(w *codec.Writer, s string) { w.Text([]byte(s)) }
-	codec.Put(w, g.Targets, func(w *codec.Writer, t api.Target) {
-		putText(w, t.Name)
-		putText(w, t.Command)
-		codec.Put(w, t.Needs, putText)
-	})
-}
-
-func readGraph(r *codec.Reader) api.Graph {
-	readName := func(r *codec.Reader) string { return string(r.Text(api.MaxName)) }
-	targets := codec.List(r, api.MaxTargets, func(r *codec.Reader) api.Target {
-		return api.Target{
-			Name:    readName(r),
-			Command: string(r.Text(api.MaxText)),
-			Needs:   codec.List(r, api.MaxNeeds, readName),
-		}
-	})
-	return api.Graph{Targets: targets}
 }
